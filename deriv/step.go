@@ -8,73 +8,49 @@ import (
 )
 
 // by returns the derivative of x by c.
-func (m *store) by(x *node, c rune) *node {
-	if d, known := x.by[c]; known {
-		return d
-	}
-	d := m.derive(x, c)
-	if x.by == nil {
-		x.by = map[rune]*node{}
-	}
-	x.by[c] = d
-	return d
-}
+func (m *store) by(x *node, c rune) *node { return x.By(c, m.derive) }
 
 // derive works out the derivative of x by c.
 func (m *store) derive(x *node, c rune) *node {
 	kids := func() []*node {
-		l := make([]*node, len(x.kids))
-		for i, kid := range x.kids {
+		l := make([]*node, len(x.Kids))
+		for i, kid := range x.Kids {
 			l[i] = m.by(kid, c)
 		}
 		return l
 	}
-	switch x.kind {
+	switch x.Kind {
 	case api.ReSet:
-		if holds(x.set, c) {
-			return m.eps
+		if x.Has(c) {
+			return m.Eps
 		}
 	case api.ReCat:
 		return m.alt(m.byHeads(x, c))
 	case api.ReAlt:
 		return m.alt(kids())
 	case api.ReAnd:
-		return m.and(kids())
+		return m.And(kids())
 	case api.ReNot:
-		return m.not(m.by(x.kids[0], c))
+		return m.Not(m.by(x.Kids[0], c))
 	case api.ReStar:
-		return m.cat(m.by(x.kids[0], c), x)
+		return m.cat(m.by(x.Kids[0], c), x)
 	}
-	return m.none
+	return m.None
 }
 
 // byHeads returns expressions whose union is the derivative of the concatenation x by c: one for each head up to the first one that does not match the empty text.
 func (m *store) byHeads(x *node, c rune) []*node {
 	var l []*node
-	for x != m.eps {
-		head, tail := m.split(x)
+	for x != m.Eps {
+		head, tail := m.Split(x)
 		l = append(l, m.cat(m.by(head, c), tail))
-		if !head.empty {
+		if !head.Empty {
 			break
 		}
 		// What the same head, standing there again, would add is part of what this one gives, as the empty text may be left for the other one.
 		x = m.behind(x)
 	}
 	return l
-}
-
-// holds reports whether the canonical set s contains c.
-func holds(s api.Set, c rune) bool {
-	_, in := slices.BinarySearchFunc(s, c, func(q api.Range, c rune) int {
-		switch {
-		case q.Hi < c:
-			return -1
-		case q.Lo > c:
-			return 1
-		}
-		return 0
-	})
-	return in
 }
 
 // take returns the node for r. If flat is true, nested concatenations become one: else each derivative of left parts in left parts would be sought from the innermost one on.
@@ -102,7 +78,7 @@ func eachKid(r api.Re, flat bool, f func(kid api.Re)) {
 
 // give returns the expression of x. Unions and intersections are in an order that does not hang on the numbers of nodes, so that they are the same whenever they are answered.
 func give(x *node) api.Re {
-	r := api.Re{Kind: x.kind, Set: slices.Clone(x.set)}
+	r := api.Re{Kind: x.Kind, Set: slices.Clone(x.Set)}
 	for _, part := range parts(x) {
 		r.Kids = append(r.Kids, give(part))
 	}
@@ -114,12 +90,12 @@ func give(x *node) api.Re {
 
 // parts returns the kids of x, or the heads and the last tail of a concatenation.
 func parts(x *node) []*node {
-	if x.kind != api.ReCat {
-		return x.kids
+	if x.Kind != api.ReCat {
+		return x.Kids
 	}
 	var l []*node
-	for ; x.kind == api.ReCat; x = x.kids[1] {
-		l = append(l, x.kids[0])
+	for ; x.Kind == api.ReCat; x = x.Kids[1] {
+		l = append(l, x.Kids[0])
 	}
 	return append(l, x)
 }
@@ -144,15 +120,15 @@ func renew(x *node) (*store, *node) {
 	moved := map[int]*node{}
 	var move func(x *node) *node
 	move = func(x *node) *node {
-		if y, done := moved[x.number]; done {
+		if y, done := moved[x.Number]; done {
 			return y
 		}
 		var kids []*node
-		for _, kid := range x.kids {
+		for _, kid := range x.Kids {
 			kids = append(kids, move(kid))
 		}
-		y := m.build(x.kind, x.set, kids)
-		moved[x.number] = y
+		y := m.build(x.Kind, x.Set, kids)
+		moved[x.Number] = y
 		return y
 	}
 	return m, move(x)
